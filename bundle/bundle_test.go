@@ -353,14 +353,37 @@ func TestRoot(t *testing.T) {
 		{"; start=e", 0},
 		{"; start=\"<e>\"", 0},
 		{"; restart=\"<b>\"", 0},
-		// No ID is none that could be asked for.
+		// The first part without an ID has one that is empty: it is asked for by what stands round it, not by nothing.
+		{"; start=\"<>\"", 3},
+		{"; start=\"<>\"; start=\"<b>\"", 3},
 		{"; start=\"\"", 0},
-		{"; start=\"<>\"", 0},
+		{"; start=\"< >\"", 0},
+		{"; start=\"><\"", 0},
+		{"; start=\"<\"", 0},
 	} {
 		b := open(t, many([]string{isRelated + c.params, "Content-Type: multipart/related; start=\"<c d>\""}, ids...))
 		if got := b.Root(); got != c.want {
 			t.Errorf("%q: got %d, want %d", c.params, got, c.want)
 		}
+	}
+}
+
+// A part has the ID that is empty in each way of having none; what is bound begins with it still.
+func TestRootWithoutID(t *testing.T) {
+	for _, without := range []string{one("y"), one("y", "A: b"), one("y", "Content-ID: <>"), one("y", "Content-ID: a"), one("y", "Content-ID: "), one("y", "Content-ID: <a", "Content-ID: <a>")} {
+		for _, c := range []struct {
+			start string
+			want  int
+		}{{`"<>"`, 1}, {`"<a>"`, 0}, {`"<b>"`, 2}, {`""`, 0}, {`"<c>"`, 0}} {
+			b := open(t, many([]string{isRelated + "; start=" + c.start}, named("<a>"), without, named("<b>"), one("")))
+			if got, again := b.Root(), open(t, bind(t, b)).Root(); got != c.want || again != c.want {
+				t.Errorf("%q, %q: got %d, and %d bound, want %d", c.start, without, got, again, c.want)
+			}
+		}
+	}
+	b := open(t, many([]string{isRelated + "; start=\"<>\""}, named("<a>"), named("<b>")))
+	if got := b.Root(); got != 0 {
+		t.Errorf("where each part has an ID: got %d", got)
 	}
 }
 
@@ -888,7 +911,7 @@ func slowRoot(whole api.Part) int {
 			continue
 		}
 		for i, p := range whole.Parts {
-			if m := angles.FindStringSubmatch(q.Value); m != nil && m[1] == slowID(p) {
+			if q.Value != "" && "<"+slowID(p)+">" == q.Value {
 				return i
 			}
 		}
